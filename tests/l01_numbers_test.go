@@ -78,6 +78,7 @@ func returns(t *testing.T, want int64) func(got int64, code int64) {
 }
 
 func TestErrorCodesAndLimits(t *testing.T) {
+	t.Parallel()
 	codes := []int64{impl.ErrNone, impl.ErrInvalid, impl.ErrRange, impl.ErrLimit, impl.ErrNotFound, impl.ErrState, impl.ErrSyntax}
 	if !slices.Equal(codes, []int64{0, 1, 2, 3, 4, 5, 6}) {
 		t.Errorf("the error codes are %v", codes)
@@ -88,6 +89,7 @@ func TestErrorCodesAndLimits(t *testing.T) {
 }
 
 func TestIsPrime(t *testing.T) {
+	t.Parallel()
 	for _, p := range primes {
 		if !impl.IsPrime(p) {
 			t.Errorf("%d is a prime", p)
@@ -101,6 +103,7 @@ func TestIsPrime(t *testing.T) {
 }
 
 func TestNumberOf(t *testing.T) {
+	t.Parallel()
 	for _, p := range primes {
 		want := int64(0)
 		for n := -20 * p; n <= 20*p; n++ {
@@ -120,6 +123,7 @@ func TestNumberOf(t *testing.T) {
 }
 
 func TestSumsDifferencesAndProducts(t *testing.T) {
+	t.Parallel()
 	for _, p := range primes {
 		for a := range p {
 			for b := range p {
@@ -132,6 +136,7 @@ func TestSumsDifferencesAndProducts(t *testing.T) {
 }
 
 func TestDividingUndoesMultiplying(t *testing.T) {
+	t.Parallel()
 	returns(t, 3)(impl.DivideNumbers(5, 1, 2))
 	for _, p := range primes {
 		for a := range p {
@@ -150,6 +155,7 @@ func TestDividingUndoesMultiplying(t *testing.T) {
 
 // TestPowerNumber tests all exponents, each power by the one with the exponent before it.
 func TestPowerNumber(t *testing.T) {
+	t.Parallel()
 	for _, p := range primes {
 		for a := range p {
 			power := int64(1)
@@ -175,6 +181,7 @@ func TestPowerNumber(t *testing.T) {
 }
 
 func TestPowerNumberRefusesExponents(t *testing.T) {
+	t.Parallel()
 	returns(t, 5)(impl.PowerNumber(7, 3, -1))
 	returns(t, 1)(impl.PowerNumber(7, 0, 0))
 	returns(t, 0)(impl.PowerNumber(7, 0, 1000))
@@ -202,6 +209,7 @@ func rootOf(p int64, a int64) (int64, bool) {
 }
 
 func TestSquaresAndRoots(t *testing.T) {
+	t.Parallel()
 	returns(t, 3)(impl.SquareRoot(7, 2))
 	for _, p := range primes {
 		for a := range p {
@@ -235,6 +243,7 @@ func firstSquares(p int64, a int64) (int64, int64) {
 }
 
 func TestSumOfSquares(t *testing.T) {
+	t.Parallel()
 	if x, y, code := impl.SumOfSquares(7, 3); x != 1 || y != 3 || code != impl.ErrNone {
 		t.Errorf("SumOfSquares(7, 3) = %d, %d, %d", x, y, code)
 	}
@@ -250,6 +259,7 @@ func TestSumOfSquares(t *testing.T) {
 }
 
 func TestOrderOfNumber(t *testing.T) {
+	t.Parallel()
 	returns(t, 3)(impl.OrderOfNumber(7, 2))
 	for _, p := range primes {
 		for a := int64(1); a < p; a++ {
@@ -264,12 +274,14 @@ func TestOrderOfNumber(t *testing.T) {
 }
 
 func TestPrimitiveNumber(t *testing.T) {
+	t.Parallel()
 	for i, want := range []int64{2, 2, 3, 2, 2} {
 		returns(t, want)(impl.PrimitiveNumber(primes[i]))
 	}
 }
 
 func TestDotOf(t *testing.T) {
+	t.Parallel()
 	returns(t, 1)(impl.DotOf(5, []int64{1, 2}, []int64{3, 4}))
 	for _, p := range primes {
 		returns(t, 0)(impl.DotOf(p, nil, nil))
@@ -292,6 +304,7 @@ func TestDotOf(t *testing.T) {
 }
 
 func TestDotOfRefusesLists(t *testing.T) {
+	t.Parallel()
 	for _, p := range primes {
 		full, long := make([]int64, impl.MaxList), make([]int64, impl.MaxList+1)
 		returns(t, 0)(impl.DotOf(p, full, full))
@@ -312,6 +325,7 @@ func TestDotOfRefusesLists(t *testing.T) {
 }
 
 func TestDotOfKeepsItsArguments(t *testing.T) {
+	t.Parallel()
 	a, b := []int64{1, 2, 3, 9}, []int64{4, 0, 2, 8}
 	returns(t, 0)(impl.DotOf(5, a[:3], b[:3]))
 	returns(t, 4)(impl.DotOf(5, a[:3], a[:3]))
@@ -321,6 +335,7 @@ func TestDotOfKeepsItsArguments(t *testing.T) {
 }
 
 func TestTexts(t *testing.T) {
+	t.Parallel()
 	for _, p := range primes {
 		for a, want := range textsOf(p) {
 			text, code := impl.NumberText(p, int64(a))
@@ -334,6 +349,7 @@ func TestTexts(t *testing.T) {
 
 // TestParseNumberAcceptsOnlyTexts tests all texts of at most four of some bytes.
 func TestParseNumberAcceptsOnlyTexts(t *testing.T) {
+	t.Parallel()
 	for _, p := range primes {
 		texts, list := textsOf(p), []string{""}
 		for range 4 {
@@ -362,6 +378,7 @@ func checkParse(t *testing.T, p int64, text string, texts []string) {
 }
 
 func TestParseNumberRefusesOtherTexts(t *testing.T) {
+	t.Parallel()
 	others := []string{
 		"", "-", "+", "--1", "-0", "+0", "+1", "00", "01", "-01", "0x1", "1.", "1e0", "1_0", "e0", "1 ", " 1", "1\n", "\t1",
 		"1\x00", "\x00", "\xff1", "\u0661", "\u22121", "18446744073709551617", "4294967297", "-9223372036854775808",
@@ -376,6 +393,7 @@ func TestParseNumberRefusesOtherTexts(t *testing.T) {
 
 // TestNotPrimes gives arguments that are wrong in other ways too: the prime is checked first.
 func TestNotPrimes(t *testing.T) {
+	t.Parallel()
 	for _, p := range notPrimes() {
 		for _, a := range []int64{0, 1, -1, p, math.MaxInt64} {
 			list := []int64{a}
@@ -410,6 +428,7 @@ func TestNotPrimes(t *testing.T) {
 
 // TestNotNumbers gives arguments that would be a wrong state too: numbers are checked before it.
 func TestNotNumbers(t *testing.T) {
+	t.Parallel()
 	for _, p := range primes {
 		for _, bad := range notNumbers(p) {
 			for call, got := range map[string]result{

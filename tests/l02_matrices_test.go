@@ -297,12 +297,14 @@ func greatSizes() [][2]int {
 }
 
 func TestMaxRows(t *testing.T) {
+	t.Parallel()
 	if impl.MaxRows != 16 {
 		t.Errorf("MaxRows is %d", impl.MaxRows)
 	}
 }
 
 func TestIsMatrix(t *testing.T) {
+	t.Parallel()
 	for _, p := range primes {
 		for rows := range impl.MaxRows + 3 {
 			for columns := range impl.MaxRows + 3 {
@@ -334,6 +336,7 @@ func TestIsMatrix(t *testing.T) {
 }
 
 func TestIsMatrixRefuses(t *testing.T) {
+	t.Parallel()
 	for _, p := range primes {
 		for _, m := range notMatrices(p) {
 			if impl.IsMatrix(p, m) {
@@ -365,6 +368,7 @@ func notMatrices(p int64) [][][]int64 {
 }
 
 func TestProductsAndSums(t *testing.T) {
+	t.Parallel()
 	returnsVector(t, []int64{3, 3})(impl.ApplyMatrix(5, [][]int64{{1, 2}, {0, 3}}, []int64{1, 1}))
 	returnsMatrix(t, [][]int64{{5, 1}, {1, 1}})(impl.MultiplyMatrices(7, [][]int64{{1, 2}, {3, 4}}, [][]int64{{5, 6}, {0, 1}}))
 	for _, p := range primes {
@@ -400,6 +404,7 @@ func TestProductsAndSums(t *testing.T) {
 }
 
 func TestTraceOf(t *testing.T) {
+	t.Parallel()
 	for _, p := range primes {
 		var s source
 		for size := 1; size <= impl.MaxRows; size++ {
@@ -493,6 +498,7 @@ func checkValues(t *testing.T, p int64, m [][]int64) {
 }
 
 func TestAllSmallSquareMatrices(t *testing.T) {
+	t.Parallel()
 	check := func(p int64, size int) {
 		allMatrices(p, size, size, func(m [][]int64) {
 			checkSquareMatrix(t, p, m, determinantOf(p, m))
@@ -506,6 +512,7 @@ func TestAllSmallSquareMatrices(t *testing.T) {
 }
 
 func TestSquareMatrices(t *testing.T) {
+	t.Parallel()
 	for _, p := range primes {
 		var s source
 		for range 40 {
@@ -522,6 +529,7 @@ func TestSquareMatrices(t *testing.T) {
 }
 
 func TestGreatSquareMatrices(t *testing.T) {
+	t.Parallel()
 	for _, p := range primes {
 		var s source
 		for size := 7; size <= impl.MaxRows; size++ {
@@ -545,6 +553,7 @@ func TestGreatSquareMatrices(t *testing.T) {
 }
 
 func TestDeterminantsAreMultiplied(t *testing.T) {
+	t.Parallel()
 	allMatrices(3, 2, 2, func(a [][]int64) {
 		allMatrices(3, 2, 2, func(b [][]int64) {
 			m := must[[][]int64](t)(impl.MultiplyMatrices(3, a, b))
@@ -565,6 +574,7 @@ func TestDeterminantsAreMultiplied(t *testing.T) {
 
 // TestDeterminantsThatAreKnown has the signs of exchanged and of rotated rows, and triangles.
 func TestDeterminantsThatAreKnown(t *testing.T) {
+	t.Parallel()
 	for _, p := range primes {
 		var s source
 		for size := 1; size <= impl.MaxRows; size++ {
@@ -608,6 +618,7 @@ func timesRoot(p int64, polynomial []int64, root int64) []int64 {
 }
 
 func TestCharacteristicPolynomial(t *testing.T) {
+	t.Parallel()
 	returnsVector(t, []int64{2, 2, 1})(impl.CharacteristicPolynomial(5, [][]int64{{1, 1}, {0, 2}}))
 	for _, p := range primes {
 		var s source
@@ -633,6 +644,7 @@ func TestCharacteristicPolynomial(t *testing.T) {
 }
 
 func TestPowerMatrix(t *testing.T) {
+	t.Parallel()
 	for _, p := range primes {
 		var s source
 		for size := 1; size <= impl.MaxRows; size++ {
@@ -657,6 +669,7 @@ func TestPowerMatrix(t *testing.T) {
 }
 
 func TestPowerMatrixRefusesExponents(t *testing.T) {
+	t.Parallel()
 	for _, p := range primes {
 		for _, k := range []int64{math.MinInt64, -1 << 32, -1000, -2, -1, 1001, 1002, 1 << 32, math.MaxInt64} {
 			for _, m := range [][][]int64{{{1}}, {{0}}, unit(2), zeros(3, 3), unit(16)} {
@@ -736,6 +749,7 @@ func checkSolutions(t *testing.T, p int64, m [][]int64) {
 }
 
 func TestAllSmallSystems(t *testing.T) {
+	t.Parallel()
 	check := func(p int64, rows int, columns int) {
 		allMatrices(p, rows, columns, func(m [][]int64) {
 			checkSpan(t, p, m)
@@ -755,6 +769,7 @@ func TestAllSmallSystems(t *testing.T) {
 }
 
 func TestSmallSystems(t *testing.T) {
+	t.Parallel()
 	for _, p := range primes {
 		var s source
 		for _, size := range smallSizes(p) {
@@ -772,6 +787,7 @@ func TestSmallSystems(t *testing.T) {
 
 // TestSpansThatAreKnown mixes the vectors of a reduced basis, which have to be found again.
 func TestSpansThatAreKnown(t *testing.T) {
+	t.Parallel()
 	returnsMatrix(t, [][]int64{{1, 2}})(impl.SpanBasis(5, [][]int64{{2, 4}, {1, 2}}))
 	for _, p := range primes {
 		var s source
@@ -834,6 +850,7 @@ func checkMembers(t *testing.T, p int64, list [][]int64, basis [][]int64, s *sou
 }
 
 func TestGreatSystems(t *testing.T) {
+	t.Parallel()
 	for _, p := range primes {
 		var s source
 		for _, size := range greatSizes() {
@@ -889,6 +906,7 @@ func checkGreatSolutions(t *testing.T, p int64, m [][]int64, s *source) {
 }
 
 func TestSystemsAtTheLimits(t *testing.T) {
+	t.Parallel()
 	for _, p := range primes {
 		for _, size := range [][2]int{{1, 1}, {1, 16}, {16, 1}, {16, 16}, {2, 5}} {
 			zero := zeros(size[0], size[1])
@@ -960,6 +978,7 @@ func callsOfLists(p int64, list [][]int64) map[string]result {
 }
 
 func TestMatricesOfNoPrime(t *testing.T) {
+	t.Parallel()
 	for _, p := range notPrimes() {
 		for _, m := range [][][]int64{nil, {}, {{0}}, unit(2), zeros(2, 2), {{0, 1}}, {{-1}}, {{1, 2}, {3}}, zeros(17, 17)} {
 			for call, got := range callsOfOne(p, m) {
@@ -973,6 +992,7 @@ func TestMatricesOfNoPrime(t *testing.T) {
 }
 
 func TestNoMatrices(t *testing.T) {
+	t.Parallel()
 	for _, p := range primes {
 		for _, m := range notMatrices(p) {
 			for call, got := range callsOfOne(p, m) {
@@ -992,6 +1012,7 @@ func TestNoMatrices(t *testing.T) {
 }
 
 func TestMatricesThatAreNotSquare(t *testing.T) {
+	t.Parallel()
 	for _, p := range primes {
 		for rows := 1; rows <= impl.MaxRows; rows++ {
 			for columns := 1; columns <= impl.MaxRows; columns++ {
@@ -1016,6 +1037,7 @@ func TestMatricesThatAreNotSquare(t *testing.T) {
 }
 
 func TestSizesThatDoNotFit(t *testing.T) {
+	t.Parallel()
 	sizes := [][2]int{{1, 1}, {1, 2}, {2, 1}, {2, 2}, {2, 3}, {3, 2}, {3, 3}, {1, 16}, {16, 1}, {16, 16}}
 	for _, p := range primes {
 		var s source
@@ -1047,6 +1069,7 @@ func TestSizesThatDoNotFit(t *testing.T) {
 }
 
 func TestVectorsWithoutNumbers(t *testing.T) {
+	t.Parallel()
 	for _, p := range primes {
 		m := [][]int64{{1, 0, 1}, {0, 1, 0}}
 		for _, bad := range notNumbers(p) {
@@ -1126,6 +1149,7 @@ func overwrite(t *testing.T, call string, rows [][]int64) {
 }
 
 func TestMatricesAreNewMemory(t *testing.T) {
+	t.Parallel()
 	for _, p := range primes {
 		var s source
 		for _, size := range []int{1, 2, 5, 16} {

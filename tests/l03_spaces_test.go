@@ -123,12 +123,14 @@ func countsOf(s impl.Space) []int64 {
 }
 
 func TestLimitsOfSpaces(t *testing.T) {
+	t.Parallel()
 	if impl.MaxDim != 6 || impl.MaxVectors != 5000 {
 		t.Errorf("the limits are %d and %d", impl.MaxDim, impl.MaxVectors)
 	}
 }
 
 func TestIsSpace(t *testing.T) {
+	t.Parallel()
 	allSpaces(func(s impl.Space, r *source) {
 		if !impl.IsSpace(s) {
 			t.Errorf("IsSpace(%v) has to be true", s)
@@ -193,6 +195,7 @@ func checkPairs(t *testing.T, s impl.Space, v []int64, w []int64) {
 }
 
 func TestPairsAndNorms(t *testing.T) {
+	t.Parallel()
 	plane := space(5, 1, 1)
 	returns(t, 0)(impl.NormOf(plane, []int64{1, 2}))
 	returns(t, 1)(impl.PairOf(plane, []int64{1, 2}, []int64{3, 4}))
@@ -229,6 +232,7 @@ func TestPairsAndNorms(t *testing.T) {
 }
 
 func TestGramOf(t *testing.T) {
+	t.Parallel()
 	returnsMatrix(t, [][]int64{{1, 1}, {1, 2}})(impl.GramOf(space(5, 1, 1), [][]int64{{1, 0}, {1, 1}}))
 	allSpaces(func(s impl.Space, r *source) {
 		n := len(s.Squares)
@@ -249,6 +253,7 @@ func TestGramOf(t *testing.T) {
 }
 
 func TestDiscriminantsAndRegularity(t *testing.T) {
+	t.Parallel()
 	returns(t, 3)(impl.DiscriminantOf(space(7, 2, 3, 4)))
 	allSpaces(func(s impl.Space, r *source) {
 		want := int64(1)
@@ -306,6 +311,7 @@ func checkOrthogonal(t *testing.T, s impl.Space, list [][]int64) {
 }
 
 func TestOrthogonalTo(t *testing.T) {
+	t.Parallel()
 	returnsMatrix(t, [][]int64{{1, 2}})(impl.OrthogonalTo(space(5, 1, 1), [][]int64{{1, 2}}))
 	returnsMatrix(t, [][]int64{{1, 1}})(impl.OrthogonalTo(space(7, 2, 1), [][]int64{{1, 5}}))
 	returnsMatrix(t, [][]int64{{1, 0, 1}, {0, 1, 0}})(impl.OrthogonalTo(space(5, 2, 0, 1), [][]int64{{1, 3, 3}, {0, 4, 0}}))
@@ -331,6 +337,7 @@ func TestOrthogonalTo(t *testing.T) {
 }
 
 func TestIsotropicVector(t *testing.T) {
+	t.Parallel()
 	returnsVector(t, []int64{1, 2})(impl.IsotropicVector(space(5, 1, 1)))
 	returnsVector(t, []int64{0, 1})(impl.IsotropicVector(space(5, 1, 0)))
 	returnsVector(t, []int64{0, 0, 0, 1, 1, 1})(impl.IsotropicVector(space(3, 1, 1, 1, 1, 1, 1)))
@@ -376,6 +383,7 @@ func isotropicDimension(s impl.Space) int64 {
 // TestWittIndex goes through all vectors of one regular space of each kind. That an index depends
 // only on the kind is tested by the numbers of vectors with the norm 0, which tell it.
 func TestWittIndex(t *testing.T) {
+	t.Parallel()
 	returns(t, 2)(impl.WittIndex(space(3, 1, 1, 1, 1)))
 	returns(t, 1)(impl.WittIndex(space(5, 1, 1)))
 	returns(t, 0)(impl.WittIndex(space(7, 1, 1)))
@@ -423,6 +431,7 @@ func checkWittIndexes(t *testing.T, p int64, indexes map[[2]int64]int64) {
 
 // TestAllNorms compares numbers and lists of vectors of each norm with all vectors.
 func TestAllNorms(t *testing.T) {
+	t.Parallel()
 	returns(t, 9)(impl.CountVectors(space(5, 1, 1), 0))
 	returnsMatrix(t, [][]int64{{0, 1}, {0, 2}, {1, 0}, {2, 0}})(impl.VectorsOfNorm(space(3, 1, 1), 1))
 	returnsMatrix(t, [][]int64{{0}})(impl.VectorsOfNorm(space(5, 2), 0))
@@ -449,6 +458,7 @@ func TestAllNorms(t *testing.T) {
 }
 
 func TestNumbersOfVectors(t *testing.T) {
+	t.Parallel()
 	allSpaces(func(s impl.Space, r *source) {
 		counts, sum := countsOf(s), int64(0)
 		for c := range s.P {
@@ -478,6 +488,7 @@ func TestNumbersOfVectors(t *testing.T) {
 }
 
 func TestVectorsOfGreatSpaces(t *testing.T) {
+	t.Parallel()
 	for _, p := range primes {
 		for n := 1; n <= 6; n++ {
 			for _, square := range []int64{0, 1, p - 1} {
@@ -528,6 +539,7 @@ func allTargets(p int64, n int) []impl.Space {
 // TestAllSmallIsometries goes through all matrices, column by column. The squares of the space that
 // a matrix can be an isometry from are the norms of its columns.
 func TestAllSmallIsometries(t *testing.T) {
+	t.Parallel()
 	for _, size := range [][2]int{{3, 1}, {3, 2}, {3, 3}, {5, 1}, {5, 2}, {7, 1}, {7, 2}, {11, 1}, {11, 2}, {13, 1}, {13, 2}} {
 		p, n := int64(size[0]), size[1]
 		for _, u := range allTargets(p, n) {
@@ -575,6 +587,7 @@ func checkIsometries(t *testing.T, u impl.Space, first map[string][][]int64) {
 
 // TestAreIsometric uses that spaces are isometric exactly if each norm has as many vectors in both.
 func TestAreIsometric(t *testing.T) {
+	t.Parallel()
 	returnsBool(t, true)(impl.AreIsometric(space(5, 1, 1), space(5, 4, 1)))
 	returnsBool(t, false)(impl.AreIsometric(space(5, 1, 1), space(5, 2, 1)))
 	returnsBool(t, true)(impl.AreIsometric(space(7, 0, 3, 5), space(7, 1, 1, 0)))
@@ -598,6 +611,7 @@ func TestAreIsometric(t *testing.T) {
 }
 
 func TestSpacesOfDifferentKinds(t *testing.T) {
+	t.Parallel()
 	for _, p := range primes {
 		for _, q := range primes {
 			for n := 1; n <= 6; n++ {
@@ -647,6 +661,7 @@ func firstIsometry(s impl.Space, u impl.Space, columns [][]int64) [][]int64 {
 }
 
 func TestIsometryOf(t *testing.T) {
+	t.Parallel()
 	returnsMatrix(t, [][]int64{{0, 2}, {1, 0}})(impl.IsometryOf(space(5, 1, 1), space(5, 4, 1)))
 	refuses(t, "IsometryOf", ofMatrix(impl.IsometryOf(space(5, 1, 1), space(5, 2, 1))), impl.ErrNotFound)
 	for _, p := range primes {
@@ -719,6 +734,7 @@ func otherForm(t *testing.T, s impl.Space, r *source) (impl.Space, [][]int64) {
 }
 
 func TestIsometriesAreProducts(t *testing.T) {
+	t.Parallel()
 	allSpaces(func(s impl.Space, r *source) {
 		n := len(s.Squares)
 		u, m := otherForm(t, s, r)
@@ -743,6 +759,7 @@ func TestIsometriesAreProducts(t *testing.T) {
 }
 
 func TestIsometriesOfSpacesThatAreNotRegular(t *testing.T) {
+	t.Parallel()
 	for _, p := range primes {
 		s := space(p, 0, 1)
 		returnsBool(t, true)(impl.IsIsometry(s, s, [][]int64{{p - 1, 1}, {0, 1}}))
@@ -761,6 +778,7 @@ func TestIsometriesOfSpacesThatAreNotRegular(t *testing.T) {
 }
 
 func TestIsIsometryOfNoMatrices(t *testing.T) {
+	t.Parallel()
 	for _, p := range primes {
 		for n := 1; n <= 6; n++ {
 			for _, square := range []int64{0, 1} {
@@ -815,6 +833,7 @@ func checkSpaceText(t *testing.T, s impl.Space) {
 }
 
 func TestTextsOfSpaces(t *testing.T) {
+	t.Parallel()
 	if text, code := impl.SpaceText(space(5, 1, 1)); text != "5: 1 1" || code != impl.ErrNone {
 		t.Errorf("SpaceText of the plane = %q, %d", text, code)
 	}
@@ -850,6 +869,7 @@ func checkParseSpace(t *testing.T, text string) {
 // TestParseSpaceAcceptsOnlyTexts tests all texts of at most five of some bytes, alone and behind
 // the beginnings of texts.
 func TestParseSpaceAcceptsOnlyTexts(t *testing.T) {
+	t.Parallel()
 	list := []string{""}
 	for range 5 {
 		for _, text := range list {
@@ -873,6 +893,7 @@ func TestParseSpaceAcceptsOnlyTexts(t *testing.T) {
 
 // TestParseSpaceOfChangedTexts changes, leaves out and puts in single bytes.
 func TestParseSpaceOfChangedTexts(t *testing.T) {
+	t.Parallel()
 	bytes := " :-+0123456789\n\t\x00\xff_.xe"
 	allSpaces(func(s impl.Space, r *source) {
 		text := spaceText(s)
@@ -897,6 +918,7 @@ func TestParseSpaceOfChangedTexts(t *testing.T) {
 }
 
 func TestParseSpaceRefusesOtherTexts(t *testing.T) {
+	t.Parallel()
 	for _, text := range []string{
 		"", "7", "7:", "7: ", "7:  ", "4: 1", "7:1", "7: 4", "7: 1  1", "7: 1 ", " 7: 1", "7 : 1", "7; 1", "7 1", ": 1", ":", " ",
 		"07: 1", "+7: 1", "-7: 1", "7.0: 1", "0x7: 1", "7_: 1", "1: 0", "2: 1", "9: 1", "17: 1", "0: 0", "4294967303: 1", "18446744073709551623: 1",
@@ -950,6 +972,7 @@ func callsOfSpace(s impl.Space) map[string]result {
 }
 
 func TestNoSpaces(t *testing.T) {
+	t.Parallel()
 	for _, s := range notSpaces() {
 		for call, got := range callsOfSpace(s) {
 			refuses(t, call, got, impl.ErrInvalid)
@@ -977,6 +1000,7 @@ func notVectors(s impl.Space) [][]int64 {
 }
 
 func TestNoVectors(t *testing.T) {
+	t.Parallel()
 	for _, p := range primes {
 		for n := 1; n <= 6; n++ {
 			for _, square := range []int64{0, 1} {
@@ -1011,6 +1035,7 @@ func TestNoVectors(t *testing.T) {
 
 // TestNoNorms has spaces with more than MaxVectors vectors, too: numbers are checked first.
 func TestNoNorms(t *testing.T) {
+	t.Parallel()
 	for _, p := range primes {
 		for n := 1; n <= 6; n++ {
 			for _, square := range []int64{0, 1} {
@@ -1026,6 +1051,7 @@ func TestNoNorms(t *testing.T) {
 
 // TestIsometryOfOrder has spaces that would be refused for other reasons behind the first one, too.
 func TestIsometryOfOrder(t *testing.T) {
+	t.Parallel()
 	for _, p := range primes {
 		for _, q := range primes {
 			for n := 1; n <= 6; n++ {
@@ -1086,6 +1112,7 @@ func cloneRows(rows [][]int64) [][]int64 {
 
 // TestResultsOfSpacesAreNewMemory overwrites all results, and then calls everything again.
 func TestResultsOfSpacesAreNewMemory(t *testing.T) {
+	t.Parallel()
 	for _, p := range primes {
 		var r source
 		for n := 3; powerOf(p, n) <= 5000 && n <= 6; n++ {
@@ -1123,6 +1150,7 @@ func TestResultsOfSpacesAreNewMemory(t *testing.T) {
 
 // TestSpacesThatAreNotRegularAreKept has squares that are 0 among others, and behind them.
 func TestSpacesThatAreNotRegularAreKept(t *testing.T) {
+	t.Parallel()
 	for _, p := range primes {
 		var g guard
 		s := impl.Space{P: p, Squares: g.keep([][]int64{{0, 1, 0, 2}})[0]}

@@ -142,6 +142,7 @@ func fewSpaces(do func(s impl.Space, r *source)) {
 }
 
 func TestMultivectorsOfThePlane(t *testing.T) {
+	t.Parallel()
 	plane, e0, v := space(5, 1, 1), []int64{0, 1, 0, 0}, []int64{0, 3, 4, 0}
 	returnsVector(t, v)(impl.VectorOf(plane, []int64{3, 4}))
 	returnsVector(t, []int64{0, 0, 0, 1})(impl.BladeOf(plane, 3))
@@ -168,6 +169,7 @@ func TestMultivectorsOfThePlane(t *testing.T) {
 }
 
 func TestIsMultivector(t *testing.T) {
+	t.Parallel()
 	allSpaces(func(s impl.Space, r *source) {
 		for _, x := range append(someMultivectors(s, r), make([]int64, bladesOf(s))) {
 			if !impl.IsMultivector(s, x) {
@@ -193,6 +195,7 @@ func TestIsMultivector(t *testing.T) {
 
 // TestVectorsAndBlades makes each blade of basis vectors in ascending order, too.
 func TestVectorsAndBlades(t *testing.T) {
+	t.Parallel()
 	allSpaces(func(s impl.Space, r *source) {
 		for _, v := range append(unit(len(s.Squares)), r.vector(s.P, len(s.Squares)), make([]int64, len(s.Squares))) {
 			returnsVector(t, vectorPart(s, v))(impl.VectorOf(s, v))
@@ -212,6 +215,7 @@ func TestVectorsAndBlades(t *testing.T) {
 }
 
 func TestSumsAndMultiples(t *testing.T) {
+	t.Parallel()
 	allSpaces(func(s impl.Space, r *source) {
 		zero := make([]int64, bladesOf(s))
 		for _, x := range someMultivectors(s, r) {
@@ -241,6 +245,7 @@ func TestSumsAndMultiples(t *testing.T) {
 }
 
 func TestProductsOfAllBlades(t *testing.T) {
+	t.Parallel()
 	fewSpaces(func(s impl.Space, r *source) {
 		for a := range bladesOf(s) {
 			for b := range bladesOf(s) {
@@ -263,6 +268,7 @@ func TestProductsOfAllBlades(t *testing.T) {
 }
 
 func TestAllSmallProducts(t *testing.T) {
+	t.Parallel()
 	for _, s := range []impl.Space{space(3, 0), space(3, 1), space(3, 2), space(5, 3), space(7, 6), space(3, 1, 1), space(3, 2, 0)} {
 		allVectors(s.P, bladesOf(s), func(x []int64) {
 			allVectors(s.P, bladesOf(s), func(y []int64) {
@@ -276,6 +282,7 @@ func TestAllSmallProducts(t *testing.T) {
 
 // TestProducts tests that products are associative and distribute over sums, too.
 func TestProducts(t *testing.T) {
+	t.Parallel()
 	allSpaces(func(s impl.Space, r *source) {
 		one, zero := blade(s, 0, 1), make([]int64, bladesOf(s))
 		times := func(x []int64, y []int64) []int64 { return must[[]int64](t)(impl.GeometricProduct(s, x, y)) }
@@ -300,6 +307,7 @@ func TestProducts(t *testing.T) {
 
 // TestProductsOfThreeBlades has all blades, so that products are associative for all multivectors.
 func TestProductsOfThreeBlades(t *testing.T) {
+	t.Parallel()
 	fewSpaces(func(s impl.Space, r *source) {
 		if len(s.Squares) > 3 && (len(s.Squares) > 4 || s.P > 5) {
 			return
@@ -318,6 +326,7 @@ func TestProductsOfThreeBlades(t *testing.T) {
 }
 
 func TestSquaresOfVectorsAreNorms(t *testing.T) {
+	t.Parallel()
 	allSpaces(func(s impl.Space, r *source) {
 		for range 3 {
 			v, w := r.vector(s.P, len(s.Squares)), r.vector(s.P, len(s.Squares))
@@ -343,6 +352,7 @@ func turned(s impl.Space, kind int, x []int64) []int64 {
 }
 
 func TestReversesInvolutesAndConjugates(t *testing.T) {
+	t.Parallel()
 	allSpaces(func(s impl.Space, r *source) {
 		list := append(someMultivectors(s, r), make([]int64, bladesOf(s)))
 		for mask := range bladesOf(s) {
@@ -360,6 +370,7 @@ func TestReversesInvolutesAndConjugates(t *testing.T) {
 
 // TestReversesOfProducts tests involutes and conjugates of products, too.
 func TestReversesOfProducts(t *testing.T) {
+	t.Parallel()
 	allSpaces(func(s impl.Space, r *source) {
 		times := func(x []int64, y []int64) []int64 { return must[[]int64](t)(impl.GeometricProduct(s, x, y)) }
 		for i, x := range someMultivectors(s, r) {
@@ -403,6 +414,7 @@ func checkGrades(t *testing.T, s impl.Space, x []int64) {
 }
 
 func TestGrades(t *testing.T) {
+	t.Parallel()
 	returnsVector(t, []int64{0, 2, 0, 0})(impl.GradePart(space(5, 1, 1), []int64{1, 2, 0, 4}, 1))
 	returnsVector(t, []int64{1, 2})(impl.GradesOf(space(5, 1, 1), []int64{0, 2, 0, 4}))
 	returnsVector(t, nil)(impl.GradesOf(space(5, 1, 1), []int64{0, 0, 0, 0}))
@@ -429,6 +441,7 @@ func TestGrades(t *testing.T) {
 }
 
 func TestBrackets(t *testing.T) {
+	t.Parallel()
 	returnsVector(t, []int64{0, 0, 0, 2})(impl.BracketOf(space(5, 1, 1), []int64{0, 1, 0, 0}, []int64{0, 0, 1, 0}))
 	allSpaces(func(s impl.Space, r *source) {
 		bracket := func(x []int64, y []int64) []int64 { return must[[]int64](t)(impl.BracketOf(s, x, y)) }
@@ -453,6 +466,7 @@ func TestBrackets(t *testing.T) {
 
 // TestPowers tests all exponents, each power by the one with the exponent before it.
 func TestPowers(t *testing.T) {
+	t.Parallel()
 	fewSpaces(func(s impl.Space, r *source) {
 		list := append(someMultivectors(s, r), blade(s, 0, s.P-1))
 		if len(s.Squares) > 4 {
@@ -475,6 +489,7 @@ func TestPowers(t *testing.T) {
 }
 
 func TestExponentsMasksAndGradesBehindTheLimits(t *testing.T) {
+	t.Parallel()
 	fewSpaces(func(s impl.Space, r *source) {
 		x, n, size := r.vector(s.P, bladesOf(s)), int64(len(s.Squares)), int64(bladesOf(s))
 		for _, k := range []int64{math.MinInt64, math.MinInt64 + 1, -1 << 32, -101, -100, -2, -1, 1 << 32, 1<<32 + 1, 1 << 62, math.MaxInt64} {
@@ -496,6 +511,7 @@ func TestExponentsMasksAndGradesBehindTheLimits(t *testing.T) {
 
 // TestAllSmallInverses looks for the inverse among all multivectors.
 func TestAllSmallInverses(t *testing.T) {
+	t.Parallel()
 	for _, p := range primes {
 		for square := range p {
 			checkAllInverses(t, space(p, square))
@@ -544,6 +560,7 @@ func checkInverse(t *testing.T, s impl.Space, x []int64) {
 }
 
 func TestInverses(t *testing.T) {
+	t.Parallel()
 	allSpaces(func(s impl.Space, r *source) {
 		if len(s.Squares) > 4 {
 			return
@@ -567,6 +584,7 @@ func TestInverses(t *testing.T) {
 
 // TestInversesThatAreKnown has products of vectors, and numbers with multiples of e0.
 func TestInversesThatAreKnown(t *testing.T) {
+	t.Parallel()
 	allSpaces(func(s impl.Space, r *source) {
 		n := len(s.Squares)
 		if n > 4 {
@@ -599,6 +617,7 @@ func TestInversesThatAreKnown(t *testing.T) {
 }
 
 func TestInversesBehindTheLimit(t *testing.T) {
+	t.Parallel()
 	allSpaces(func(s impl.Space, r *source) {
 		one := blade(s, 0, 1)
 		if len(s.Squares) <= 4 {
@@ -646,6 +665,7 @@ func callsOfMultivector(s impl.Space, x []int64, good []int64) map[string]result
 
 // TestMultivectorsOfNoSpaces gives other arguments that are right, and some that are wrong, too.
 func TestMultivectorsOfNoSpaces(t *testing.T) {
+	t.Parallel()
 	for _, s := range notSpaces() {
 		for _, length := range []int{0, 4, 1 << min(len(s.Squares), 7)} {
 			x := slices.Repeat([]int64{1}, length)
@@ -677,6 +697,7 @@ func notMultivectors(s impl.Space) [][]int64 {
 }
 
 func TestNoMultivectors(t *testing.T) {
+	t.Parallel()
 	for _, p := range primes {
 		for n := 1; n <= 6; n++ {
 			for _, square := range []int64{0, 1} {
@@ -730,6 +751,7 @@ func listsOfMultivectors(t *testing.T, s impl.Space, v []int64, x []int64, y []i
 
 // TestMultivectorsAreNewMemory overwrites all results, and then calls everything again.
 func TestMultivectorsAreNewMemory(t *testing.T) {
+	t.Parallel()
 	fewSpaces(func(kept impl.Space, r *source) {
 		var g guard
 		s := impl.Space{P: kept.P, Squares: g.keep([][]int64{kept.Squares})[0]}

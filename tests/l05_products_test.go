@@ -109,6 +109,7 @@ func productCallsOf(t *testing.T, s impl.Space) productCalls {
 }
 
 func TestProductsOfThePlane(t *testing.T) {
+	t.Parallel()
 	plane, x, y := space(5, 1, 1), []int64{0, 1, 2, 0}, []int64{0, 3, 4, 0}
 	e0, e1, whole := []int64{0, 1, 0, 0}, []int64{0, 0, 1, 0}, []int64{0, 0, 0, 1}
 	returnsVector(t, []int64{0, 0, 0, 3})(impl.WedgeProduct(plane, x, y))
@@ -138,6 +139,7 @@ func TestProductsOfThePlane(t *testing.T) {
 
 // TestProductsThatAreKnown has other squares than 1, a square that is 0, one square, and three.
 func TestProductsThatAreKnown(t *testing.T) {
+	t.Parallel()
 	other := space(7, 2, 3)
 	returnsVector(t, []int64{0, 0, 2, 0})(impl.LeftContraction(other, []int64{0, 1, 0, 0}, []int64{0, 0, 0, 1}))
 	returnsVector(t, []int64{0, 4, 0, 0})(impl.LeftContraction(other, []int64{0, 0, 1, 0}, []int64{0, 0, 0, 1}))
@@ -172,6 +174,7 @@ func TestProductsThatAreKnown(t *testing.T) {
 
 // TestKindsOfAllBlades has all pairs of masks, with and without common bits.
 func TestKindsOfAllBlades(t *testing.T) {
+	t.Parallel()
 	fewSpaces(func(s impl.Space, r *source) {
 		for a := range bladesOf(s) {
 			for b := range bladesOf(s) {
@@ -188,6 +191,7 @@ func TestKindsOfAllBlades(t *testing.T) {
 }
 
 func TestAllSmallKinds(t *testing.T) {
+	t.Parallel()
 	for _, s := range []impl.Space{space(3, 0), space(3, 1), space(3, 2), space(5, 3), space(7, 6), space(3, 1, 1), space(3, 2, 0)} {
 		allVectors(s.P, bladesOf(s), func(x []int64) {
 			allVectors(s.P, bladesOf(s), func(y []int64) {
@@ -206,6 +210,7 @@ func TestAllSmallKinds(t *testing.T) {
 
 // TestKinds tests sums over pairs of blades, and that products distribute over sums.
 func TestKinds(t *testing.T) {
+	t.Parallel()
 	allSpaces(func(s impl.Space, r *source) {
 		for i, x := range someMultivectors(s, r) {
 			others := someMultivectors(s, r)
@@ -222,6 +227,7 @@ func TestKinds(t *testing.T) {
 }
 
 func TestKindsWithNumbersAndZero(t *testing.T) {
+	t.Parallel()
 	allSpaces(func(s impl.Space, r *source) {
 		zero, c := make([]int64, bladesOf(s)), r.below(s.P)
 		number := blade(s, 0, c)
@@ -247,6 +253,7 @@ func TestKindsWithNumbersAndZero(t *testing.T) {
 
 // TestWedgeProductsAreAssociative tests what contractions by wedge products are, and reverses, too.
 func TestWedgeProductsAreAssociative(t *testing.T) {
+	t.Parallel()
 	allSpaces(func(s impl.Space, r *source) {
 		c := productCallsOf(t, s)
 		for i, x := range someMultivectors(s, r) {
@@ -264,6 +271,7 @@ func TestWedgeProductsAreAssociative(t *testing.T) {
 
 // TestWedgesOfThreeBlades has all blades, so that wedge products are associative for all multivectors.
 func TestWedgesOfThreeBlades(t *testing.T) {
+	t.Parallel()
 	fewSpaces(func(s impl.Space, r *source) {
 		if len(s.Squares) > 3 && (len(s.Squares) > 4 || s.P > 5) {
 			return
@@ -282,6 +290,7 @@ func TestWedgesOfThreeBlades(t *testing.T) {
 }
 
 func TestProductsOfVectorsAreSums(t *testing.T) {
+	t.Parallel()
 	allSpaces(func(s impl.Space, r *source) {
 		c, zero, n := productCallsOf(t, s), make([]int64, bladesOf(s)), len(s.Squares)
 		for _, x := range someMultivectors(s, r) {
@@ -301,6 +310,7 @@ func TestProductsOfVectorsAreSums(t *testing.T) {
 // TestKindsAreGradeParts uses that the products of blades of grades k and l are the parts of the grades
 // k + l, l - k and k - l of their geometric products.
 func TestKindsAreGradeParts(t *testing.T) {
+	t.Parallel()
 	allSpaces(func(s impl.Space, r *source) {
 		n, x, y := len(s.Squares), r.vector(s.P, bladesOf(s)), r.vector(s.P, bladesOf(s))
 		for k := range n + 1 {
@@ -320,6 +330,7 @@ func TestKindsAreGradeParts(t *testing.T) {
 }
 
 func TestScalarProducts(t *testing.T) {
+	t.Parallel()
 	allSpaces(func(s impl.Space, r *source) {
 		c := productCallsOf(t, s)
 		for i, x := range someMultivectors(s, r) {
@@ -338,6 +349,7 @@ func TestScalarProducts(t *testing.T) {
 
 // TestScalarProductsOfWedges uses that they are the determinants of the products of the vectors.
 func TestScalarProductsOfWedges(t *testing.T) {
+	t.Parallel()
 	allSpaces(func(s impl.Space, r *source) {
 		n := len(s.Squares)
 		for k := range n + 1 {
@@ -355,6 +367,7 @@ func TestScalarProductsOfWedges(t *testing.T) {
 }
 
 func TestPseudoscalars(t *testing.T) {
+	t.Parallel()
 	signs := []int64{0, 1, -1, -1, 1, 1, -1}
 	allSpaces(func(s impl.Space, r *source) {
 		whole, square := blade(s, bladesOf(s)-1, 1), s.P+signs[len(s.Squares)]
@@ -389,6 +402,7 @@ func regularSpaces(do func(s impl.Space, r *source)) {
 }
 
 func TestDuals(t *testing.T) {
+	t.Parallel()
 	regularSpaces(func(s impl.Space, r *source) {
 		c, zero, one := productCallsOf(t, s), make([]int64, bladesOf(s)), blade(s, 0, 1)
 		whole, inverse := blade(s, bladesOf(s)-1, 1), inverseWhole(s)
@@ -416,6 +430,7 @@ func TestDuals(t *testing.T) {
 
 // TestAllSmallDuals has all multivectors of some spaces, and all blades of others.
 func TestAllSmallDuals(t *testing.T) {
+	t.Parallel()
 	for _, s := range []impl.Space{space(3, 1), space(3, 2), space(5, 2), space(7, 3), space(13, 5), space(3, 1, 2), space(5, 2, 1), space(3, 2, 1, 2)} {
 		inverse, whole := inverseWhole(s), blade(s, bladesOf(s)-1, 1)
 		allVectors(s.P, bladesOf(s), func(x []int64) {
@@ -441,6 +456,7 @@ func meetOf(s impl.Space, x []int64, y []int64) []int64 {
 }
 
 func TestMeets(t *testing.T) {
+	t.Parallel()
 	regularSpaces(func(s impl.Space, r *source) {
 		c, zero, whole := productCallsOf(t, s), make([]int64, bladesOf(s)), blade(s, bladesOf(s)-1, 1)
 		ones := space(s.P, slices.Repeat([]int64{1}, len(s.Squares))...)
@@ -464,6 +480,7 @@ func TestMeets(t *testing.T) {
 }
 
 func TestMeetsOfAllBlades(t *testing.T) {
+	t.Parallel()
 	fewSpaces(func(s impl.Space, r *source) {
 		if !regularOf(s) {
 			return
@@ -493,6 +510,7 @@ func TestMeetsOfAllBlades(t *testing.T) {
 
 // TestMeetsAreIntersections compares with the vectors that satisfy the equations of both subspaces.
 func TestMeetsAreIntersections(t *testing.T) {
+	t.Parallel()
 	regularSpaces(func(s impl.Space, r *source) {
 		n := len(s.Squares)
 		k, l := 1+int(r.below(int64(n))), 1+int(r.below(int64(n)))
@@ -522,6 +540,7 @@ func TestMeetsAreIntersections(t *testing.T) {
 
 // TestSpacesWithoutDuals has one square that is 0, at each place, and more of them.
 func TestSpacesWithoutDuals(t *testing.T) {
+	t.Parallel()
 	allSpaces(func(s impl.Space, r *source) {
 		if regularOf(s) {
 			return
@@ -548,6 +567,7 @@ func TestSpacesWithoutDuals(t *testing.T) {
 }
 
 func TestWedgesOfVectors(t *testing.T) {
+	t.Parallel()
 	allSpaces(func(s impl.Space, r *source) {
 		n, one, zero := len(s.Squares), blade(s, 0, 1), make([]int64, bladesOf(s))
 		returnsVector(t, one)(impl.WedgeOfVectors(s, nil))
@@ -601,6 +621,7 @@ func checkDependence(t *testing.T, s impl.Space, list [][]int64) {
 }
 
 func TestDependence(t *testing.T) {
+	t.Parallel()
 	allSpaces(func(s impl.Space, r *source) {
 		n := len(s.Squares)
 		returnsBool(t, false)(impl.AreDependent(s, nil))
@@ -630,6 +651,7 @@ func TestDependence(t *testing.T) {
 
 // TestAllSmallLists has all lists of some lengths.
 func TestAllSmallLists(t *testing.T) {
+	t.Parallel()
 	for _, size := range [][3]int{{3, 1, 1}, {3, 1, 3}, {3, 2, 1}, {3, 2, 2}, {3, 2, 3}, {3, 3, 2}, {5, 1, 2}, {5, 2, 2}, {7, 2, 1}, {13, 1, 2}} {
 		p, n, k := int64(size[0]), size[1], size[2]
 		s := space(p, slices.Repeat([]int64{p - 1}, n)...)
@@ -646,6 +668,7 @@ func TestAllSmallLists(t *testing.T) {
 }
 
 func TestVolumes(t *testing.T) {
+	t.Parallel()
 	allSpaces(func(s impl.Space, r *source) {
 		n := len(s.Squares)
 		returns(t, 1)(impl.VolumeOf(s, unit(n)))
@@ -699,6 +722,7 @@ func callsOfProductLists(s impl.Space, list [][]int64) map[string]result {
 
 // TestProductsOfNoSpaces gives other arguments that are right, and some that are wrong, too.
 func TestProductsOfNoSpaces(t *testing.T) {
+	t.Parallel()
 	for _, s := range notSpaces() {
 		n := len(s.Squares)
 		refuses(t, "PseudoscalarOf", ofVector(impl.PseudoscalarOf(s)), impl.ErrInvalid)
@@ -718,6 +742,7 @@ func TestProductsOfNoSpaces(t *testing.T) {
 }
 
 func TestProductsOfNoMultivectors(t *testing.T) {
+	t.Parallel()
 	for _, p := range primes {
 		for n := 1; n <= 6; n++ {
 			for _, square := range []int64{0, 1} {
@@ -733,6 +758,7 @@ func TestProductsOfNoMultivectors(t *testing.T) {
 }
 
 func TestProductsOfNoVectors(t *testing.T) {
+	t.Parallel()
 	for _, p := range primes {
 		for n := 1; n <= 6; n++ {
 			for _, square := range []int64{0, 1} {
@@ -785,6 +811,7 @@ func listsOfProducts(t *testing.T, s impl.Space, list [][]int64, x []int64, y []
 
 // TestProductsAreNewMemory overwrites all results, and then calls everything again.
 func TestProductsAreNewMemory(t *testing.T) {
+	t.Parallel()
 	fewSpaces(func(kept impl.Space, r *source) {
 		var g guard
 		n := len(kept.Squares)

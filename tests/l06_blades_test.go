@@ -133,6 +133,7 @@ func checkBlade(t *testing.T, s impl.Space, known knownBlade) {
 }
 
 func TestBladesOfThePlane(t *testing.T) {
+	t.Parallel()
 	plane, zero, one, whole := space(5, 1, 1), make([]int64, 4), []int64{1, 0, 0, 0}, []int64{0, 0, 0, 1}
 	for _, x := range [][]int64{one, {3, 0, 0, 0}, {0, 1, 2, 0}, {0, 0, 4, 0}, whole, {0, 0, 0, 2}} {
 		returnsBool(t, true)(impl.IsBlade(plane, x))
@@ -183,6 +184,7 @@ func TestBladesOfThePlane(t *testing.T) {
 
 // TestBladesThatAreKnown has three and four squares, and squares that are 0.
 func TestBladesThatAreKnown(t *testing.T) {
+	t.Parallel()
 	solid := space(7, 1, 2, 0)
 	// Twice the wedge product of e0 + 3 e2 and e1 + 5 e2.
 	plane := []int64{0, 0, 0, 2, 0, 3, 1, 0}
@@ -219,6 +221,7 @@ func TestBladesThatAreKnown(t *testing.T) {
 
 // TestBladesOfBases has subspaces of all dimensions, and of each multiples of the wedge product.
 func TestBladesOfBases(t *testing.T) {
+	t.Parallel()
 	allSpaces(func(s impl.Space, r *source) {
 		n := len(s.Squares)
 		for k := range n + 1 {
@@ -245,6 +248,7 @@ func TestBladesOfBases(t *testing.T) {
 
 // TestBladesOfMasks has all blades of basis vectors.
 func TestBladesOfMasks(t *testing.T) {
+	t.Parallel()
 	fewSpaces(func(s impl.Space, r *source) {
 		n := len(s.Squares)
 		for mask := range bladesOf(s) {
@@ -283,6 +287,7 @@ func allBladesOf(s impl.Space) map[string][][]int64 {
 
 // TestAllSmallBlades has all multivectors of some spaces, and all vectors with each one.
 func TestAllSmallBlades(t *testing.T) {
+	t.Parallel()
 	for _, s := range []impl.Space{space(3, 0), space(3, 1), space(7, 3), space(13, 0), space(3, 1, 0), space(3, 2, 1), space(5, 1, 1), space(7, 2, 0), space(3, 1, 0, 2)} {
 		all, n := allBladesOf(s), len(s.Squares)
 		allVectors(s.P, bladesOf(s), func(x []int64) {
@@ -311,6 +316,7 @@ func TestAllSmallBlades(t *testing.T) {
 // TestMultivectorsOfOneGrade has all of some grades of some spaces, and others that are blades but for
 // one coefficient.
 func TestMultivectorsOfOneGrade(t *testing.T) {
+	t.Parallel()
 	for _, size := range [][3]int{{5, 3, 1}, {5, 3, 2}, {3, 4, 2}, {5, 4, 2}, {3, 4, 3}, {3, 5, 1}, {3, 5, 4}, {3, 6, 5}} {
 		p, n, k := int64(size[0]), size[1], size[2]
 		s := space(p, slices.Repeat([]int64{p - 1}, n)...)
@@ -350,6 +356,7 @@ func TestMultivectorsOfOneGrade(t *testing.T) {
 }
 
 func TestBladesOfLists(t *testing.T) {
+	t.Parallel()
 	allSpaces(func(s impl.Space, r *source) {
 		n, one, whole := len(s.Squares), blade(s, 0, 1), blade(s, bladesOf(s)-1, 1)
 		returnsVector(t, one)(impl.BladeOfVectors(s, nil))
@@ -397,6 +404,7 @@ func checkDimensions(t *testing.T, s impl.Space, x []int64, y []int64) {
 // TestJoinsAndCommonBlades takes the vectors of both subspaces from one list of independent vectors;
 // there is one for any two subspaces.
 func TestJoinsAndCommonBlades(t *testing.T) {
+	t.Parallel()
 	allSpaces(func(s impl.Space, r *source) {
 		n := len(s.Squares)
 		for range 2 {
@@ -448,6 +456,7 @@ func subspacesOf(s impl.Space, r *source) []knownBlade {
 
 // TestAllSmallSubspaces compares with all vectors of both subspaces of each pair.
 func TestAllSmallSubspaces(t *testing.T) {
+	t.Parallel()
 	var r source
 	for _, s := range []impl.Space{space(3, 1), space(13, 0), space(3, 1, 2), space(5, 1, 1), space(5, 2, 0), space(3, 1, 1, 1), space(3, 2, 0, 1), space(3, 0, 0, 0)} {
 		n, list := len(s.Squares), subspacesOf(s, &r)
@@ -491,6 +500,7 @@ func checkPairOfBlades(t *testing.T, s impl.Space, a knownBlade, b knownBlade) {
 }
 
 func TestOrthogonalBlades(t *testing.T) {
+	t.Parallel()
 	allSpaces(func(s impl.Space, r *source) {
 		n := len(s.Squares)
 		for k := range n + 1 {
@@ -550,6 +560,7 @@ func squareOf(s impl.Space, known knownBlade) int64 {
 }
 
 func TestSquaresOfBlades(t *testing.T) {
+	t.Parallel()
 	allSpaces(func(s impl.Space, r *source) {
 		for k := range len(s.Squares) + 1 {
 			for range 3 {
@@ -599,6 +610,7 @@ func checkSplit(t *testing.T, s impl.Space, known knownBlade, v []int64) {
 }
 
 func TestProjectionsRejectionsAndReflections(t *testing.T) {
+	t.Parallel()
 	split, refused := 0, 0
 	allSpaces(func(s impl.Space, r *source) {
 		n := len(s.Squares)
@@ -640,6 +652,7 @@ func TestProjectionsRejectionsAndReflections(t *testing.T) {
 
 // TestIsotropicBlades has blades of vectors whose norms are 0, and other ones with the square 0.
 func TestIsotropicBlades(t *testing.T) {
+	t.Parallel()
 	allSpaces(func(s impl.Space, r *source) {
 		v, code := impl.IsotropicVector(s)
 		if code != impl.ErrNone {
@@ -662,6 +675,7 @@ func TestIsotropicBlades(t *testing.T) {
 
 // TestBladesOfNoSpaces gives other arguments that are right, and some that are wrong, too.
 func TestBladesOfNoSpaces(t *testing.T) {
+	t.Parallel()
 	for _, s := range notSpaces() {
 		n := len(s.Squares)
 		for _, length := range []int{0, 4, 1 << min(n, 7)} {
@@ -684,6 +698,7 @@ func TestBladesOfNoSpaces(t *testing.T) {
 // TestBladesOfNoMultivectors has, beside what is none, a blade, a multivector that is no blade, and a
 // blade that is not invertible in one of both spaces.
 func TestBladesOfNoMultivectors(t *testing.T) {
+	t.Parallel()
 	for _, p := range primes {
 		for n := 1; n <= 6; n++ {
 			for _, square := range []int64{0, 1} {
@@ -706,6 +721,7 @@ func TestBladesOfNoMultivectors(t *testing.T) {
 }
 
 func TestBladesOfNoVectors(t *testing.T) {
+	t.Parallel()
 	for _, p := range primes {
 		for n := 1; n <= 6; n++ {
 			for _, square := range []int64{0, 1} {
@@ -782,6 +798,7 @@ func invertibleBlade(s impl.Space, r *source) knownBlade {
 
 // TestBladesAreNewMemory overwrites all results, and then calls everything again.
 func TestBladesAreNewMemory(t *testing.T) {
+	t.Parallel()
 	fewSpaces(func(kept impl.Space, r *source) {
 		var g guard
 		n := len(kept.Squares)

@@ -162,6 +162,7 @@ func checkUnit(t *testing.T, s impl.Space, x []int64, norm int64) {
 }
 
 func TestVersorsOfThePlane(t *testing.T) {
+	t.Parallel()
 	plane, one, rotor := space(5, 1, 1), []int64{1, 0, 0, 0}, []int64{1, 0, 0, 1}
 	returnsVector(t, rotor)(impl.VersorOf(plane, [][]int64{{1, 0}, {1, 1}}))
 	returnsVector(t, []int64{1, 0, 0, 4})(impl.VersorOf(plane, [][]int64{{1, 1}, {1, 0}}))
@@ -209,6 +210,7 @@ func TestVersorsOfThePlane(t *testing.T) {
 
 // TestVersorsOfOneSquare has all multivectors: the versors are the numbers and the vectors other than 0.
 func TestVersorsOfOneSquare(t *testing.T) {
+	t.Parallel()
 	for _, p := range primes {
 		for square := int64(1); square < p; square++ {
 			s := space(p, square)
@@ -231,6 +233,7 @@ func TestVersorsOfOneSquare(t *testing.T) {
 
 // TestProductsOfVectorsAreVersors has lists of up to MaxRows vectors, and of one more.
 func TestProductsOfVectorsAreVersors(t *testing.T) {
+	t.Parallel()
 	regularSpaces(func(s impl.Space, r *source) {
 		n := len(s.Squares)
 		for _, count := range []int{0, 1, 2, n, 16} {
@@ -249,6 +252,7 @@ func TestProductsOfVectorsAreVersors(t *testing.T) {
 
 // TestVectorsWithoutNorms puts vectors with the norm 0 among others.
 func TestVectorsWithoutNorms(t *testing.T) {
+	t.Parallel()
 	regularSpaces(func(s impl.Space, r *source) {
 		n := len(s.Squares)
 		null := [][]int64{make([]int64, n)}
@@ -271,6 +275,7 @@ func TestVectorsWithoutNorms(t *testing.T) {
 }
 
 func TestNumbersAreVersors(t *testing.T) {
+	t.Parallel()
 	regularSpaces(func(s impl.Space, r *source) {
 		v, y := r.vector(s.P, len(s.Squares)), r.vector(s.P, bladesOf(s))
 		for a := int64(1); a < s.P; a++ {
@@ -324,6 +329,7 @@ func allVersorsOf(s impl.Space) map[string]knownVersor {
 
 // TestAllSmallVersors has all multivectors of some spaces.
 func TestAllSmallVersors(t *testing.T) {
+	t.Parallel()
 	for _, s := range []impl.Space{space(3, 1, 1), space(3, 1, 2), space(5, 1, 1), space(5, 2, 1), space(7, 1, 1), space(7, 3, 1), space(3, 1, 1, 1), space(3, 2, 1, 2)} {
 		all, found := allVersorsOf(s), 0
 		var r source
@@ -344,6 +350,7 @@ func TestAllSmallVersors(t *testing.T) {
 
 // TestAllVersorsOfOneParity has all even and all odd multivectors of some spaces.
 func TestAllVersorsOfOneParity(t *testing.T) {
+	t.Parallel()
 	for _, s := range []impl.Space{space(11, 1, 2), space(13, 2, 5), space(5, 1, 2, 1), space(7, 1, 1, 3), space(3, 1, 1, 1, 1), space(3, 1, 1, 1, 2), space(3, 1, 2, 2, 1)} {
 		all, found, half := allVersorsOf(s), 0, bladesOf(s)/2
 		for parity := range 2 {
@@ -373,6 +380,7 @@ func TestAllVersorsOfOneParity(t *testing.T) {
 // TestOneConditionFails has multivectors for which all conditions for a versor but one hold. That on
 // even and odd grades follows from the others.
 func TestOneConditionFails(t *testing.T) {
+	t.Parallel()
 	met := [4]int{}
 	regularSpaces(func(s impl.Space, r *source) {
 		n := len(s.Squares)
@@ -412,6 +420,7 @@ func TestOneConditionFails(t *testing.T) {
 // TestChangedVersors changes coefficients of versors, and adds versors of the same and of different
 // parities.
 func TestChangedVersors(t *testing.T) {
+	t.Parallel()
 	yes, no := 0, 0
 	regularSpaces(func(s impl.Space, r *source) {
 		n := int64(len(s.Squares))
@@ -443,6 +452,7 @@ func TestChangedVersors(t *testing.T) {
 }
 
 func TestSpinorNorms(t *testing.T) {
+	t.Parallel()
 	regularSpaces(func(s impl.Space, r *source) {
 		for _, x := range append(someMultivectors(s, r), make([]int64, bladesOf(s))) {
 			returns(t, scalarProduct(s, x, x))(impl.SpinorNormOf(s, x))
@@ -461,6 +471,7 @@ func TestSpinorNorms(t *testing.T) {
 // TestProductsOfVersors tests that the sandwich of a product is that of the second factor, and then that
 // of the first one.
 func TestProductsOfVersors(t *testing.T) {
+	t.Parallel()
 	regularSpaces(func(s impl.Space, r *source) {
 		n := len(s.Squares)
 		for range 3 {
@@ -485,6 +496,7 @@ func TestProductsOfVersors(t *testing.T) {
 
 // TestSandwichesKeepProducts has norms and products of vectors, and geometric products.
 func TestSandwichesKeepProducts(t *testing.T) {
+	t.Parallel()
 	regularSpaces(func(s impl.Space, r *source) {
 		n := len(s.Squares)
 		one, whole := blade(s, 0, 1), blade(s, bladesOf(s)-1, 1)
@@ -516,6 +528,7 @@ func reflected(s impl.Space, u []int64, v []int64) []int64 {
 }
 
 func TestReflections(t *testing.T) {
+	t.Parallel()
 	regularSpaces(func(s impl.Space, r *source) {
 		n := len(s.Squares)
 		for _, u := range append(unit(n), r.vectorsWithNorms(s, 4)...) {
@@ -570,6 +583,7 @@ func checkBetween(t *testing.T, s impl.Space, u []int64, v []int64) bool {
 }
 
 func TestVersorsBetweenAllVectors(t *testing.T) {
+	t.Parallel()
 	for _, s := range []impl.Space{space(3, 1), space(5, 2), space(13, 6), space(3, 1, 1), space(3, 1, 2), space(5, 1, 1), space(5, 1, 2), space(7, 3, 6), space(3, 1, 1, 2)} {
 		allVectors(s.P, len(s.Squares), func(u []int64) {
 			allVectors(s.P, len(s.Squares), func(v []int64) { checkBetween(t, s, u, v) })
@@ -583,6 +597,7 @@ func isotropicBeside(s impl.Space, u []int64) []int64 {
 }
 
 func TestVersorsBetween(t *testing.T) {
+	t.Parallel()
 	direct, isotropic := 0, 0
 	regularSpaces(func(s impl.Space, r *source) {
 		n := len(s.Squares)
@@ -627,6 +642,7 @@ func TestVersorsBetween(t *testing.T) {
 // TestUnitVersors has spinor norms that are squares, and others; 0 is refused before its root is looked
 // for.
 func TestUnitVersors(t *testing.T) {
+	t.Parallel()
 	squares, others := 0, 0
 	regularSpaces(func(s impl.Space, r *source) {
 		for count := range 4 {
@@ -652,6 +668,7 @@ func TestUnitVersors(t *testing.T) {
 // TestSpacesWithoutVersors has one square that is 0, at each place, and more of them. Whatever is wrong
 // with other arguments is told before.
 func TestSpacesWithoutVersors(t *testing.T) {
+	t.Parallel()
 	allSpaces(func(s impl.Space, r *source) {
 		if regularOf(s) {
 			return
@@ -679,6 +696,7 @@ func TestSpacesWithoutVersors(t *testing.T) {
 
 // TestVersorsOfNoSpaces gives other arguments that are right, and some that are wrong, too.
 func TestVersorsOfNoSpaces(t *testing.T) {
+	t.Parallel()
 	for _, s := range notSpaces() {
 		n := len(s.Squares)
 		for _, length := range []int{0, 4, 1 << min(n, 7)} {
@@ -700,6 +718,7 @@ func TestVersorsOfNoSpaces(t *testing.T) {
 // TestVersorsOfNoMultivectors has, beside what is none, a versor and a multivector that is no versor, in
 // regular spaces and in others.
 func TestVersorsOfNoMultivectors(t *testing.T) {
+	t.Parallel()
 	for _, p := range primes {
 		for n := 1; n <= 6; n++ {
 			for _, square := range []int64{0, 1} {
@@ -721,6 +740,7 @@ func TestVersorsOfNoMultivectors(t *testing.T) {
 }
 
 func TestVersorsOfNoVectors(t *testing.T) {
+	t.Parallel()
 	for _, p := range primes {
 		for n := 1; n <= 6; n++ {
 			for _, square := range []int64{0, 1} {
@@ -780,6 +800,7 @@ func listsOfVersors(t *testing.T, s impl.Space, list [][]int64, versors [][]int6
 // TestVersorsAreNewMemory overwrites all results, and then calls everything again. Two of the versors have
 // the spinor norm 1, so that they could be given back as they are.
 func TestVersorsAreNewMemory(t *testing.T) {
+	t.Parallel()
 	regularSpaces(func(kept impl.Space, r *source) {
 		var g guard
 		s := impl.Space{P: kept.P, Squares: g.keep([][]int64{kept.Squares})[0]}

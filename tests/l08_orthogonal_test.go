@@ -10,6 +10,7 @@ import (
 )
 
 func TestMaxOrthogonal(t *testing.T) {
+	t.Parallel()
 	if impl.MaxOrthogonal != 500 {
 		t.Errorf("MaxOrthogonal is %d", impl.MaxOrthogonal)
 	}
@@ -147,6 +148,7 @@ func checkMotion(t *testing.T, s impl.Space, list [][]int64) int {
 }
 
 func TestOrthogonalMatricesOfThePlane(t *testing.T) {
+	t.Parallel()
 	plane, swap, turn := space(5, 1, 1), [][]int64{{0, 1}, {1, 0}}, [][]int64{{0, 4}, {1, 0}}
 	for _, m := range [][][]int64{swap, turn, unit(2), diagonal(4, 1), diagonal(4, 4)} {
 		returnsBool(t, true)(impl.IsOrthogonal(plane, m))
@@ -199,6 +201,7 @@ func TestOrthogonalMatricesOfThePlane(t *testing.T) {
 
 // TestColumnWithoutDifference has the column {1, 1, 2}, whose difference from e(0) has the norm 0.
 func TestColumnWithoutDifference(t *testing.T) {
+	t.Parallel()
 	s, m := space(5, 1, 1, 1), [][]int64{{1, 4, 3}, {1, 3, 4}, {2, 4, 4}}
 	returnsBool(t, true)(impl.IsOrthogonal(s, m))
 	returnsMatrix(t, [][]int64{{2, 1, 2}, {1, 0, 0}})(impl.DecomposeOrthogonal(s, m))
@@ -212,6 +215,7 @@ func TestColumnWithoutDifference(t *testing.T) {
 
 // TestOrthogonalMatricesOfOneSquare has all numbers as matrices.
 func TestOrthogonalMatricesOfOneSquare(t *testing.T) {
+	t.Parallel()
 	for _, p := range primes {
 		for square := int64(1); square < p; square++ {
 			s := space(p, square)
@@ -252,6 +256,7 @@ func smallGroups() []impl.Space {
 
 // TestAllSmallMatrices goes through the columns in lexicographic order.
 func TestAllSmallMatrices(t *testing.T) {
+	t.Parallel()
 	for _, s := range smallGroups() {
 		var want [][][]int64
 		var r source
@@ -323,6 +328,7 @@ func checkGroup(t *testing.T, s impl.Space) bool {
 // TestGroupsWithLists has all regular spaces with up to three squares. None of them has exactly
 // MaxOrthogonal orthogonal matrices: the numbers next to it are 240 and 672.
 func TestGroupsWithLists(t *testing.T) {
+	t.Parallel()
 	for _, p := range primes {
 		for n := 1; n <= 3; n++ {
 			allVectors(p, n, func(squares []int64) {
@@ -340,6 +346,7 @@ func TestGroupsWithLists(t *testing.T) {
 
 // TestCounts has spaces whose Witt indices are half of the number of squares, and less.
 func TestCounts(t *testing.T) {
+	t.Parallel()
 	met := map[[3]int64]int{}
 	check := func(s impl.Space) {
 		checkGroup(t, s)
@@ -367,6 +374,7 @@ func TestCounts(t *testing.T) {
 }
 
 func TestMatricesOfVersors(t *testing.T) {
+	t.Parallel()
 	regularSpaces(func(s impl.Space, r *source) {
 		n := len(s.Squares)
 		for _, a := range []int64{1, 1 + r.below(s.P-1), s.P - 1} {
@@ -391,6 +399,7 @@ func TestMatricesOfVersors(t *testing.T) {
 
 // TestMatricesOfNoVersors has 0, sums of versors, and vectors with the norm 0.
 func TestMatricesOfNoVersors(t *testing.T) {
+	t.Parallel()
 	refused := 0
 	regularSpaces(func(s impl.Space, r *source) {
 		n := len(s.Squares)
@@ -416,6 +425,7 @@ func TestMatricesOfNoVersors(t *testing.T) {
 }
 
 func TestMatricesOfReflections(t *testing.T) {
+	t.Parallel()
 	check := func(s impl.Space, u []int64) {
 		if pairing(s, u, u) == 0 {
 			refuses(t, "ReflectionMatrix", ofMatrix(impl.ReflectionMatrix(s, u)), impl.ErrState)
@@ -449,6 +459,7 @@ func TestMatricesOfReflections(t *testing.T) {
 }
 
 func TestOrthogonalMatrices(t *testing.T) {
+	t.Parallel()
 	regularSpaces(func(s impl.Space, r *source) {
 		n := len(s.Squares)
 		for _, count := range []int{0, 1, 2, n, n + 1} {
@@ -490,6 +501,7 @@ func (r *source) stepOf(t *testing.T, s impl.Space, i int, kind int64) [][]int64
 // TestKnownDecompositions makes the decompositions first: each step leaves the columns before it as they
 // are.
 func TestKnownDecompositions(t *testing.T) {
+	t.Parallel()
 	met := [6]int{}
 	regularSpaces(func(s impl.Space, r *source) {
 		n := len(s.Squares)
@@ -522,6 +534,7 @@ func TestKnownDecompositions(t *testing.T) {
 
 // TestNormsOfProducts compares spinor norms and determinants of products with those of their factors.
 func TestNormsOfProducts(t *testing.T) {
+	t.Parallel()
 	squares, others := 0, 0
 	regularSpaces(func(s impl.Space, r *source) {
 		n := int64(len(s.Squares))
@@ -557,6 +570,7 @@ func TestNormsOfProducts(t *testing.T) {
 
 // TestGreatOrders has the greatest spaces; orders there are up to some thousands.
 func TestGreatOrders(t *testing.T) {
+	t.Parallel()
 	greatest := int64(0)
 	for _, squares := range [][]int64{{1, 1, 1, 1, 1, 1}, {1, 1, 1, 1, 1, 2}} {
 		s := space(13, squares...)
@@ -575,6 +589,7 @@ func TestGreatOrders(t *testing.T) {
 
 // TestOrdersDivide compares with the number of orthogonal matrices, and has all orders in some groups.
 func TestOrdersDivide(t *testing.T) {
+	t.Parallel()
 	regularSpaces(func(s impl.Space, r *source) {
 		m := reflectionsIn(t, s, r.vectorsWithNorms(s, len(s.Squares)))
 		order := must[int64](t)(impl.OrthogonalOrder(s, m))
@@ -618,6 +633,7 @@ func gcd(a int64, b int64) int64 {
 
 // TestCayleyTransformsAreProper makes them of matrices m with (m v, w) + (v, m w) = 0.
 func TestCayleyTransformsAreProper(t *testing.T) {
+	t.Parallel()
 	made := 0
 	regularSpaces(func(s impl.Space, r *source) {
 		n := len(s.Squares)
@@ -685,6 +701,7 @@ func notOrthogonal(s impl.Space, r *source) [][][]int64 {
 }
 
 func TestNotOrthogonal(t *testing.T) {
+	t.Parallel()
 	for _, p := range primes {
 		for n := 1; n <= 6; n++ {
 			var r source
@@ -707,6 +724,7 @@ func TestNotOrthogonal(t *testing.T) {
 
 // TestChangedMatrices changes one number, exchanges rows, and multiplies by numbers.
 func TestChangedMatrices(t *testing.T) {
+	t.Parallel()
 	yes, no := 0, 0
 	regularSpaces(func(s impl.Space, r *source) {
 		n := int64(len(s.Squares))
@@ -736,6 +754,7 @@ func TestChangedMatrices(t *testing.T) {
 // TestGroupsThatAreNotRegular has one square that is 0, at each place, and more of them. What is wrong
 // with multivectors and vectors is told before, and what is wrong with matrices behind it.
 func TestGroupsThatAreNotRegular(t *testing.T) {
+	t.Parallel()
 	allSpaces(func(s impl.Space, r *source) {
 		if regularOf(s) {
 			return
@@ -764,6 +783,7 @@ func TestGroupsThatAreNotRegular(t *testing.T) {
 
 // TestGroupsOfNoSpaces gives other arguments that are right, and some that are wrong, too.
 func TestGroupsOfNoSpaces(t *testing.T) {
+	t.Parallel()
 	for _, s := range notSpaces() {
 		n := len(s.Squares)
 		for _, length := range []int{0, 1 << min(n, 7)} {
@@ -783,6 +803,7 @@ func TestGroupsOfNoSpaces(t *testing.T) {
 }
 
 func TestMatricesOfNoMultivectors(t *testing.T) {
+	t.Parallel()
 	for _, p := range primes {
 		for n := 1; n <= 6; n++ {
 			for _, square := range []int64{0, 1} {
@@ -820,6 +841,7 @@ func rowsOfGroups(t *testing.T, s impl.Space, matrices [][][]int64, versors [][]
 
 // TestGroupsAreNewMemory overwrites all results, and then calls everything again.
 func TestGroupsAreNewMemory(t *testing.T) {
+	t.Parallel()
 	regularSpaces(func(kept impl.Space, r *source) {
 		var g guard
 		n := len(kept.Squares)
@@ -851,6 +873,7 @@ func TestGroupsAreNewMemory(t *testing.T) {
 
 // TestListsOfMatricesAreNewMemory overwrites the lists of rows, too, up to their capacities.
 func TestListsOfMatricesAreNewMemory(t *testing.T) {
+	t.Parallel()
 	for _, s := range append(smallGroups(), space(13, 6), space(5, 1, 2, 3)) {
 		all := must[[][][]int64](t)(impl.AllOrthogonal(s))
 		want := make([][][]int64, len(all))
@@ -874,7 +897,7 @@ func TestListsOfMatricesAreNewMemory(t *testing.T) {
 }
 
 // TestNoGoroutineIsLeft waits for a while, since a goroutine that has closed its channel may still be about
-// to end.
+// to end. It is not run beside other tests, whose goroutines it would count.
 func TestNoGoroutineIsLeft(t *testing.T) {
 	before := runtime.NumGoroutine()
 	for _, s := range append(smallGroups(), space(5, 1, 1, 1), space(7, 1, 1, 1), space(13, 1, 1, 1, 1, 1, 1), space(5, 0), space(4, 1)) {

@@ -8,6 +8,7 @@ import (
 )
 
 func TestMaxStructure(t *testing.T) {
+	t.Parallel()
 	if impl.MaxStructure != 4 {
 		t.Errorf("MaxStructure is %d", impl.MaxStructure)
 	}
@@ -127,6 +128,7 @@ func isIn(p int64, basis [][]int64, v []int64) bool {
 }
 
 func TestStructureOfThePlane(t *testing.T) {
+	t.Parallel()
 	line, plane, x, e := space(5, 1), space(5, 1, 1), []int64{1, 2, 3, 4}, []int64{3, 3, 0, 0}
 	returnsMatrix(t, [][]int64{{2, 3}, {3, 2}})(impl.LeftMatrix(line, []int64{2, 3}))
 	returnsMatrix(t, [][]int64{{2, 1}, {3, 2}})(impl.LeftMatrix(space(5, 2), []int64{2, 3}))
@@ -177,6 +179,7 @@ func TestStructureOfThePlane(t *testing.T) {
 }
 
 func TestLeftAndRightMatrices(t *testing.T) {
+	t.Parallel()
 	allAlgebras(func(s impl.Space, r *source) {
 		size := bladesOf(s)
 		y := r.vector(s.P, size)
@@ -210,6 +213,7 @@ func commutes(s impl.Space, x []int64) bool {
 // TestCentres uses that the bracket with a basis vector leads different blades to multiples of different
 // blades, so that the centre is made of blades.
 func TestCentres(t *testing.T) {
+	t.Parallel()
 	allAlgebras(func(s impl.Space, r *source) {
 		size := bladesOf(s)
 		var want [][]int64
@@ -288,6 +292,7 @@ func firstPolynomial(s impl.Space, x []int64) []int64 {
 }
 
 func TestMinimalPolynomials(t *testing.T) {
+	t.Parallel()
 	met := [5][5]int{}
 	allAlgebras(func(s impl.Space, r *source) {
 		n := len(s.Squares)
@@ -320,6 +325,7 @@ func TestMinimalPolynomials(t *testing.T) {
 }
 
 func TestMinimalPolynomialsOfNilpotents(t *testing.T) {
+	t.Parallel()
 	for _, p := range primes {
 		s := space(p, 0, 0, 0, 0)
 		// e0 e1 + e2 e3 has the square 2 e0 e1 e2 e3.
@@ -368,6 +374,7 @@ func checkIdeals(t *testing.T, s impl.Space, x []int64) int64 {
 }
 
 func TestIdeals(t *testing.T) {
+	t.Parallel()
 	yes, no := 0, 0
 	allAlgebras(func(s impl.Space, r *source) {
 		size := bladesOf(s)
@@ -399,6 +406,7 @@ func TestIdeals(t *testing.T) {
 
 // TestLeftIsNotRight has a multivector whose right ideal and right annihilator are others.
 func TestLeftIsNotRight(t *testing.T) {
+	t.Parallel()
 	plane, x := space(5, 1, 1), []int64{3, 3, 0, 0}
 	right := must[[][]int64](t)(impl.SpanBasis(5, productsOf(plane, x, true)))
 	left := must[[][]int64](t)(impl.LeftIdealOf(plane, x))
@@ -414,6 +422,7 @@ func TestLeftIsNotRight(t *testing.T) {
 
 // TestAllElements goes through all multivectors of small spaces.
 func TestAllElements(t *testing.T) {
+	t.Parallel()
 	for _, s := range fewAlgebras() {
 		var centre, idempotents int64
 		least, size := int64(bladesOf(s)), bladesOf(s)
@@ -452,6 +461,7 @@ func TestAllElements(t *testing.T) {
 
 // TestAllIdeals compares with the lists of all products.
 func TestAllIdeals(t *testing.T) {
+	t.Parallel()
 	for _, s := range append(fewAlgebras()[:39], space(3, 1, 1), space(3, 1, 2), space(3, 2, 0), space(3, 0, 0)) {
 		size := bladesOf(s)
 		allVectors(s.P, size, func(x []int64) {
@@ -506,6 +516,7 @@ func algebraOf(s impl.Space) algebra {
 }
 
 func TestStructures(t *testing.T) {
+	t.Parallel()
 	met := map[int64]map[algebra]int{}
 	check := func(s impl.Space) {
 		want := algebraOf(s)
@@ -552,6 +563,7 @@ func TestStructures(t *testing.T) {
 
 // TestCentralIdempotents counts them: the centre has one field for each part.
 func TestCentralIdempotents(t *testing.T) {
+	t.Parallel()
 	regularAlgebras(func(s impl.Space, r *source) {
 		centre, count := must[[][]int64](t)(impl.CentreBasis(s)), 0
 		if len(centre) > 2 {
@@ -592,6 +604,7 @@ func descend(t *testing.T, s impl.Space, r *source, x []int64, least int64, do f
 
 // TestSizesOfIdeals finds multivectors whose left ideals have the least size, and all multiples of it.
 func TestSizesOfIdeals(t *testing.T) {
+	t.Parallel()
 	met := map[algebra]map[int64]int{}
 	regularAlgebras(func(s impl.Space, r *source) {
 		kind := algebraOf(s)
@@ -648,6 +661,7 @@ func checkIdempotent(t *testing.T, s impl.Space, v []int64) bool {
 }
 
 func TestIdempotentsOfVectors(t *testing.T) {
+	t.Parallel()
 	met := [5]int{}
 	allAlgebras(func(s impl.Space, r *source) {
 		n := len(s.Squares)
@@ -670,6 +684,7 @@ func TestIdempotentsOfVectors(t *testing.T) {
 
 // TestNoIdempotentsOfVectors has what is not of grade 1, beside a vector whose norm is a square, and alone.
 func TestNoIdempotentsOfVectors(t *testing.T) {
+	t.Parallel()
 	allAlgebras(func(s impl.Space, r *source) {
 		fits := func(v []int64) bool { return pairing(s, v, v) == 1 }
 		v := firstVector(s, fits)
@@ -693,6 +708,7 @@ func TestNoIdempotentsOfVectors(t *testing.T) {
 }
 
 func TestEvenBasis(t *testing.T) {
+	t.Parallel()
 	allAlgebras(func(s impl.Space, r *source) {
 		want := []int64{0, 3, 5, 6, 9, 10, 12, 15}[:bladesOf(s)/2]
 		returnsVector(t, want)(impl.EvenBasis(s))
@@ -701,6 +717,7 @@ func TestEvenBasis(t *testing.T) {
 
 // TestAlgebrasThatAreNotRegular have no structure, but everything else.
 func TestAlgebrasThatAreNotRegular(t *testing.T) {
+	t.Parallel()
 	allAlgebras(func(s impl.Space, r *source) {
 		if regularOf(s) {
 			return
@@ -719,6 +736,7 @@ func TestAlgebrasThatAreNotRegular(t *testing.T) {
 
 // TestBehindMaxStructure has five and six squares, also 0, and multivectors without idempotents.
 func TestBehindMaxStructure(t *testing.T) {
+	t.Parallel()
 	check := func(s impl.Space, r *source) {
 		if len(s.Squares) <= 4 {
 			return
@@ -744,6 +762,7 @@ func TestBehindMaxStructure(t *testing.T) {
 }
 
 func TestElementsThatAreNoMultivectors(t *testing.T) {
+	t.Parallel()
 	for _, p := range primes {
 		for n := 1; n <= 6; n++ {
 			for _, square := range []int64{0, 1} {
@@ -760,6 +779,7 @@ func TestElementsThatAreNoMultivectors(t *testing.T) {
 
 // TestAlgebrasOfNoSpaces gives other arguments that are right, and some that are wrong, too.
 func TestAlgebrasOfNoSpaces(t *testing.T) {
+	t.Parallel()
 	for _, s := range notSpaces() {
 		for call, got := range callsOfAlgebras(s) {
 			refuses(t, call, got, impl.ErrInvalid)
@@ -795,6 +815,7 @@ func rowsOfAlgebras(t *testing.T, s impl.Space, elements [][]int64, v []int64) m
 
 // TestAlgebrasAreNewMemory overwrites all results, and then calls everything again.
 func TestAlgebrasAreNewMemory(t *testing.T) {
+	t.Parallel()
 	allAlgebras(func(kept impl.Space, r *source) {
 		var g guard
 		s := impl.Space{P: kept.P, Squares: g.keep([][]int64{kept.Squares})[0]}
